@@ -36,9 +36,11 @@ changes:
 
 // put returns the tokens that can be put in, each alone.
 func put() [][]api.ReadToken {
+	choices := append([]string{"0", "a"}, words...)
+	choices = append(choices, signs...)
 	keyword := keywords()
 	var l [][]api.ReadToken
-	for _, s := range slices.Concat([]string{"0", "a"}, words[:], signs[:]) {
+	for _, s := range choices {
 		kind, _ := first(s, keyword)
 		l = append(l, []api.ReadToken{{Kind: kind, Text: s}})
 	}

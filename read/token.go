@@ -15,9 +15,9 @@ const none api.ReadKind = 0
 const mostDigits = 10
 
 // words are the keywords, sorted.
-var words = [...]string{"and", "def", "else", "go", "if", "in", "place", "stop", "then", "watch"}
+var words = []string{"and", "def", "else", "go", "if", "in", "place", "stop", "then", "watch"}
 
-var signs = [...]string{"(", ")", "{", "}", ",", ";", "|", "&", "=", "==", "<", "+", "-", "*"}
+var signs = []string{"(", ")", "{", "}", ",", ";", "|", "&", "=", "==", "<", "+", "-", "*"}
 
 // keywords returns the keywords, to be asked whether a word is one.
 func keywords() map[string]bool {
