@@ -4,6 +4,7 @@ import (
 	"iter"
 
 	"cabotage/api"
+	"cabotage/list"
 )
 
 // part is a process, an expression or a definition.
@@ -64,7 +65,7 @@ func ask(w api.InferWish, left, right *node) demand {
 func (t process) asks(s *scope) []demand {
 	switch t.Op {
 	case api.TermSend:
-		return []demand{ask(api.InferSend, s.use(t.Text), typed(channel{each(t.Args, s.value)}))}
+		return []demand{ask(api.InferSend, s.use(t.Text), typed(channel{list.Each(t.Args, s.value)}))}
 	case api.TermIf:
 		return []demand{ask(api.InferTest, s.value(t.Args[0]), typed(integer{}))}
 	case api.TermGo:
@@ -76,16 +77,16 @@ func (t process) asks(s *scope) []demand {
 }
 
 func (e expression) asks(s *scope) []demand {
-	kids := each(e.Kids, s.value)
+	kids := list.Each(e.Kids, s.value)
 	if e.Op == api.TermSame {
 		return []demand{ask(api.InferAlike, kids[0], kids[1])}
 	}
-	return each(kids, func(k *node) demand { return ask(api.InferOperand, k, typed(integer{})) })
+	return list.Each(kids, func(k *node) demand { return ask(api.InferOperand, k, typed(integer{})) })
 }
 
 func (c clause) asks(s *scope) []demand {
-	return each(c.Joins, func(m api.TermMsg) demand {
-		return ask(api.InferJoin, s.use(m.Text), typed(channel{each(m.Names, c.body.use)}))
+	return list.Each(c.Joins, func(m api.TermMsg) demand {
+		return ask(api.InferJoin, s.use(m.Text), typed(channel{list.Each(m.Names, c.body.use)}))
 	})
 }
 

@@ -1,6 +1,9 @@
 package infer
 
-import "cabotage/api"
+import (
+	"cabotage/api"
+	"cabotage/list"
+)
 
 // formed reports whether a type is one.
 func formed(t api.InferType) bool {
@@ -42,7 +45,7 @@ func build(t api.InferType, variable func(n int) *node) *node {
 	case api.InferVar:
 		return variable(t.N)
 	}
-	return typed(channel{each(t.Kids, func(k api.InferType) *node { return build(k, variable) })})
+	return typed(channel{list.Each(t.Kids, func(k api.InferType) *node { return build(k, variable) })})
 }
 
 // opens returns variables that can become any types: one for each number.
@@ -112,7 +115,7 @@ func (w *writer) write(t *node) api.InferType {
 	case place:
 		return api.InferType{Op: api.InferPlace}
 	case channel:
-		return api.InferType{Op: api.InferChan, Kids: each(k.brings, w.write)}
+		return api.InferType{Op: api.InferChan, Kids: list.Each(k.brings, w.write)}
 	}
 	return api.InferType{Op: api.InferVar, N: w.numbers[t]}
 }
@@ -125,7 +128,7 @@ func (s *scope) typing(free []string) (api.InferTyping, api.Errno) {
 		y.Free = append(y.Free, w.scheme(s.names[name], nil).Type)
 	}
 	for _, d := range s.defs {
-		y.Defs = append(y.Defs, each(d.channels, func(name string) api.InferScheme {
+		y.Defs = append(y.Defs, list.Each(d.channels, func(name string) api.InferScheme {
 			return w.scheme(d.names[name], d.general)
 		}))
 	}

@@ -1,6 +1,10 @@
 package infer
 
-import "iter"
+import (
+	"iter"
+
+	"cabotage/list"
+)
 
 // nodes goes through the nodes of a type, in order, each as often as it stands
 // there.
@@ -69,19 +73,10 @@ func instance(t *node, general map[*node]bool) *node {
 				m = typed(open{})
 			}
 		case channel:
-			m = typed(channel{each(k.brings, visit)})
+			m = typed(channel{list.Each(k.brings, visit)})
 		}
 		made[n] = m
 		return m
 	}
 	return visit(t)
-}
-
-// each returns what f makes of each element of a list.
-func each[A, B any](l []A, f func(A) B) []B {
-	var out []B
-	for _, a := range l {
-		out = append(out, f(a))
-	}
-	return out
 }

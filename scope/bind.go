@@ -2,6 +2,7 @@ package scope
 
 import (
 	"cabotage/api"
+	"cabotage/list"
 	"cabotage/term"
 )
 
@@ -56,7 +57,7 @@ func (s *scope) place(name string) int {
 // process adds a process's nodes, in order, and returns the first one's number.
 func (s *scope) process(t api.Term) int {
 	n := len(s.Nodes)
-	s.Nodes = append(s.Nodes, api.ScopeNode{Op: t.Op, Args: each(t.Args, s.expression)})
+	s.Nodes = append(s.Nodes, api.ScopeNode{Op: t.Op, Args: list.Each(t.Args, s.expression)})
 	in, number := s, 0
 	switch t.Op {
 	case api.TermSend, api.TermGo, api.TermWatch:
@@ -64,7 +65,7 @@ func (s *scope) process(t api.Term) int {
 	case api.TermDef:
 		in, number = s.define(t)
 	}
-	kids := each(t.Kids, in.process)
+	kids := list.Each(t.Kids, in.process)
 	s.Nodes[n].N, s.Nodes[n].Kids = number, kids
 	return n
 }
@@ -73,7 +74,7 @@ func (s *scope) expression(e api.TermExp) api.ScopeExp {
 	if e.Op == api.TermName {
 		return api.ScopeExp{Op: e.Op, N: s.place(e.Text)}
 	}
-	return api.ScopeExp{Op: e.Op, N: e.N, Kids: each(e.Kids, s.expression)}
+	return api.ScopeExp{Op: e.Op, N: e.N, Kids: list.Each(e.Kids, s.expression)}
 }
 
 // define adds a TermDef's definition, with the nodes in it. It returns the scope

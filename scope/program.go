@@ -153,12 +153,3 @@ func (p program) needs(n, size int) []int {
 	}
 	return slices.Sorted(maps.Keys(needed))
 }
-
-// each returns what f makes of each element of a list.
-func each[A, B any](l []A, f func(A) B) []B {
-	var out []B
-	for _, a := range l {
-		out = append(out, f(a))
-	}
-	return out
-}

@@ -4,6 +4,7 @@ import (
 	"slices"
 
 	"cabotage/api"
+	"cabotage/list"
 	"cabotage/term"
 )
 
@@ -34,7 +35,7 @@ func (w *speller) choose(n int) []string {
 // are entered in order, as names are chosen so.
 func (w *speller) process(n int, env []string) api.Term {
 	at := w.Nodes[n]
-	t := api.Term{Op: at.Op, Args: each(at.Args, func(e api.ScopeExp) api.TermExp { return spellExp(e, env) })}
+	t := api.Term{Op: at.Op, Args: list.Each(at.Args, func(e api.ScopeExp) api.TermExp { return spellExp(e, env) })}
 	if place, is := (node{at}).place(); is {
 		t.Text = env[place]
 	}
@@ -42,7 +43,7 @@ func (w *speller) process(n int, env []string) api.Term {
 	if at.Op == api.TermDef {
 		t.Defs, in = w.define(w.Defs[at.N], env)
 	}
-	t.Kids = each(at.Kids, func(k int) api.Term { return w.process(k, in) })
+	t.Kids = list.Each(at.Kids, func(k int) api.Term { return w.process(k, in) })
 	return t
 }
 
@@ -50,7 +51,7 @@ func spellExp(e api.ScopeExp, env []string) api.TermExp {
 	if e.Op == api.TermName {
 		return api.TermExp{Op: e.Op, Text: env[e.N]}
 	}
-	return api.TermExp{Op: e.Op, N: e.N, Kids: each(e.Kids, func(k api.ScopeExp) api.TermExp { return spellExp(k, env) })}
+	return api.TermExp{Op: e.Op, N: e.N, Kids: list.Each(e.Kids, func(k api.ScopeExp) api.TermExp { return spellExp(k, env) })}
 }
 
 // define returns the Defs that a definition becomes, and the names of their
@@ -58,7 +59,7 @@ func spellExp(e api.ScopeExp, env []string) api.TermExp {
 func (w *speller) define(d api.ScopeDef, env []string) ([]api.TermClause, []string) {
 	names := w.choose(len(d.Chans) + len(d.Spots))
 	in := slices.Concat(env, names)
-	rules := each(d.Rules, func(r api.ScopeRule) api.TermClause { return w.rule(d, r, names, in) })
+	rules := list.Each(d.Rules, func(r api.ScopeRule) api.TermClause { return w.rule(d, r, names, in) })
 	var places []api.TermClause
 	for i, s := range d.Spots {
 		c := api.TermClause{Form: api.TermPlace, Text: names[len(d.Chans)+i]}

@@ -4,6 +4,7 @@ import (
 	"slices"
 
 	"cabotage/api"
+	"cabotage/list"
 )
 
 // parts returns the parts beside each other of a process.
@@ -30,14 +31,14 @@ func beside(l []api.Term) api.Term {
 
 // layout returns a process laid out.
 func layout(t api.Term) api.Term {
-	t.Defs = each(t.Defs, layoutClause)
-	t.Kids = each(t.Kids, layout)
+	t.Defs = list.Each(t.Defs, layoutClause)
+	t.Kids = list.Each(t.Kids, layout)
 	return beside(parts(t))
 }
 
 func layoutClause(c api.TermClause) api.TermClause {
-	c.Defs = each(c.Defs, layoutClause)
-	c.Kids = each(c.Kids, layout)
+	c.Defs = list.Each(c.Defs, layoutClause)
+	c.Kids = list.Each(c.Kids, layout)
 	return c
 }
 

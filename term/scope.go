@@ -4,6 +4,7 @@ import (
 	"iter"
 
 	"cabotage/api"
+	"cabotage/list"
 )
 
 // scope is what a TermDef or a rule binds, within the scope around it, which it
@@ -77,9 +78,9 @@ func (s *scope) process(t api.Term) api.Term {
 	if t.Text != "" {
 		out.Text = s.name(t.Text)
 	}
-	out.Args = each(t.Args, in.expression)
-	out.Defs = each(t.Defs, in.clause)
-	out.Kids = each(t.Kids, in.process)
+	out.Args = list.Each(t.Args, in.expression)
+	out.Defs = list.Each(t.Defs, in.clause)
+	out.Kids = list.Each(t.Kids, in.process)
 	return out
 }
 
@@ -88,7 +89,7 @@ func (s *scope) expression(e api.TermExp) api.TermExp {
 	if e.Op == api.TermName {
 		return s.value(e.Text)
 	}
-	return api.TermExp{Op: e.Op, N: e.N, Kids: each(e.Kids, s.expression)}
+	return api.TermExp{Op: e.Op, N: e.N, Kids: list.Each(e.Kids, s.expression)}
 }
 
 // clause returns a definition with what its names become in the scope of its
@@ -100,10 +101,10 @@ func (s *scope) clause(c api.TermClause) api.TermClause {
 		out.Text = s.name(c.Text)
 	}
 	for _, m := range c.Joins {
-		out.Joins = append(out.Joins, api.TermMsg{Text: s.name(m.Text), Names: each(m.Names, in.name)})
+		out.Joins = append(out.Joins, api.TermMsg{Text: s.name(m.Text), Names: list.Each(m.Names, in.name)})
 	}
-	out.Defs = each(c.Defs, in.clause)
-	out.Kids = each(c.Kids, in.process)
+	out.Defs = list.Each(c.Defs, in.clause)
+	out.Kids = list.Each(c.Kids, in.process)
 	return out
 }
 
@@ -136,13 +137,4 @@ func freeNames(p part) map[string]bool {
 		free[name] = true
 	}
 	return free
-}
-
-// each returns what f makes of each element of a list.
-func each[A, B any](l []A, f func(A) B) []B {
-	var out []B
-	for _, a := range l {
-		out = append(out, f(a))
-	}
-	return out
 }

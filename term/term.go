@@ -8,6 +8,7 @@ import (
 	"slices"
 
 	"cabotage/api"
+	"cabotage/list"
 )
 
 // Name reports whether a string is a name.
@@ -111,7 +112,7 @@ func Beside(l []api.Term) (api.Term, api.Errno) {
 	if len(l) > api.TermNodes {
 		return api.Term{}, api.ErrLong
 	}
-	return ifFormed(beside(each(l, copied)))
+	return ifFormed(beside(list.Each(l, copied)))
 }
 
 // Layout returns a process laid out.

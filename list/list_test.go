@@ -1,0 +1,25 @@
+package list_test
+
+import (
+	"slices"
+	"strings"
+	"testing"
+
+	"cabotage/list"
+)
+
+func TestEach(t *testing.T) {
+	l := []string{"b", "", "a"}
+	if got := list.Each(l, func(s string) int { return len(s) }); !slices.Equal(got, []int{1, 0, 1}) {
+		t.Error(got)
+	}
+	// The elements of a result are new ones, in the order of the list.
+	got := list.Each(l, strings.ToUpper)
+	got[0] = "c"
+	if l[0] != "b" || got[2] != "A" {
+		t.Error(l, got)
+	}
+	if got := list.Each(nil, strings.ToUpper); got != nil {
+		t.Error(got)
+	}
+}
