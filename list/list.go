@@ -9,3 +9,13 @@ func Each[A, B any](l []A, f func(A) B) []B {
 	}
 	return out
 }
+
+// All reports whether f holds of all elements of a list.
+func All[A any](l []A, f func(A) bool) bool {
+	for _, a := range l {
+		if !f(a) {
+			return false
+		}
+	}
+	return true
+}

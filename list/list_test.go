@@ -23,3 +23,15 @@ func TestEach(t *testing.T) {
 		t.Error(got)
 	}
 }
+
+func TestAll(t *testing.T) {
+	even := func(n int) bool { return n%2 == 0 }
+	for _, c := range []struct {
+		l    []int
+		want bool
+	}{{nil, true}, {[]int{2}, true}, {[]int{2, 4}, true}, {[]int{1}, false}, {[]int{1, 2}, false}, {[]int{2, 1}, false}} {
+		if list.All(c.l, even) != c.want {
+			t.Error(c.l)
+		}
+	}
+}

@@ -11,6 +11,7 @@ import (
 
 	"cabotage/api"
 	"cabotage/read"
+	"cabotage/sample"
 	"cabotage/scope"
 	"cabotage/term"
 )
@@ -126,7 +127,7 @@ func (m *maker) program() api.ScopeProg {
 		}
 	}
 	if m.IntN(2) == 0 {
-		m.renumber(m.Perm(len(m.p.Nodes)), m.Perm(len(m.p.Defs)))
+		return sample.Renumbered(m.p, m.Perm(len(m.p.Nodes)), m.Perm(len(m.p.Defs)))
 	}
 	return m.p
 }
@@ -228,30 +229,6 @@ func (m *maker) definition(depth, size int) (int, int) {
 	}
 	m.p.Defs[at] = d
 	return at, size
-}
-
-// renumber gives nodes and definitions other numbers.
-func (m *maker) renumber(nodes, defs []int) {
-	q := api.ScopeProg{Free: m.p.Free, Nodes: make([]api.ScopeNode, len(nodes)), Defs: make([]api.ScopeDef, len(defs)), Main: nodes[m.p.Main]}
-	for i, n := range m.p.Nodes {
-		for j := range n.Kids {
-			n.Kids[j] = nodes[n.Kids[j]]
-		}
-		if n.Op == api.TermDef {
-			n.N = defs[n.N]
-		}
-		q.Nodes[nodes[i]] = n
-	}
-	for i, d := range m.p.Defs {
-		for j := range d.Rules {
-			d.Rules[j].Node = nodes[d.Rules[j].Node]
-		}
-		for j := range d.Spots {
-			d.Spots[j].Node = nodes[d.Spots[j].Node]
-		}
-		q.Defs[defs[i]] = d
-	}
-	m.p = q
 }
 
 // spoil changes one thing in a program: a number, a name, or how long a list is.

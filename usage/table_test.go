@@ -5,6 +5,7 @@ import (
 	"testing"
 
 	"cabotage/api"
+	"cabotage/sample"
 	"cabotage/usage"
 )
 
@@ -227,7 +228,7 @@ func TestBeside(t *testing.T) {
 		q := newPlain(p)
 		env := make([]int, len(q.envs[n]))
 		for i, c := range q.envs[n] {
-			env[i] = anything
+			env[i] = sample.Anything
 			if c != nothing {
 				env[i] = p.Defs[c.def].Chans[c.index].Many
 			}
@@ -237,7 +238,7 @@ func TestBeside(t *testing.T) {
 		}
 		before := found(t, p)
 		last := len(p.Nodes)
-		p.Nodes = append(p.Nodes, p.Nodes[n], m.send(env))
+		p.Nodes = append(p.Nodes, p.Nodes[n], sample.Send(m.IntN, env))
 		p.Nodes[n] = api.ScopeNode{Op: api.TermPar, Kids: []int{last, last + 1}}
 		after := found(t, p)
 		if !notLess(p, after, before) {
