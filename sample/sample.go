@@ -6,6 +6,7 @@ import (
 	"slices"
 
 	"cabotage/api"
+	"cabotage/list"
 	"cabotage/scope"
 )
 
@@ -64,7 +65,7 @@ func (m *maker) order(n int) []int {
 func Renumbered(p api.ScopeProg, nodes, defs []int) api.ScopeProg {
 	q := api.ScopeProg{Free: slices.Clone(p.Free), Nodes: make([]api.ScopeNode, len(nodes)), Defs: make([]api.ScopeDef, len(defs)), Main: nodes[p.Main]}
 	for i, n := range p.Nodes {
-		n.Args, n.Kids = slices.Clone(n.Args), slices.Clone(n.Kids)
+		n.Args, n.Kids = list.Each(n.Args, copied), slices.Clone(n.Kids)
 		for j, k := range n.Kids {
 			n.Kids[j] = nodes[k]
 		}
@@ -84,6 +85,11 @@ func Renumbered(p api.ScopeProg, nodes, defs []int) api.ScopeProg {
 		q.Defs[defs[i]] = d
 	}
 	return q
+}
+
+func copied(e api.ScopeExp) api.ScopeExp {
+	e.Kids = list.Each(e.Kids, copied)
+	return e
 }
 
 // node adds a node, with all that is below it, and returns its number.
@@ -149,7 +155,8 @@ func (m *maker) send(to int, env []int) api.ScopeNode {
 		many = m.below(api.TermArgs + 1)
 	}
 	for range many {
-		n.Args = append(n.Args, m.expression(2, env))
+		e := m.expression(2, env)
+		n.Args = append(n.Args, e)
 	}
 	return n
 }
@@ -212,8 +219,8 @@ func (m *maker) start(depth int, env []int, from, to int) int {
 	if m.below(2) == 0 {
 		return m.start(depth, env, from+1, to)
 	}
-	at := len(m.Nodes)
-	m.Nodes = append(m.Nodes, api.ScopeNode{}, m.send(from, env))
+	at, n := len(m.Nodes), m.send(from, env)
+	m.Nodes = append(m.Nodes, api.ScopeNode{}, n)
 	k := m.start(depth, env, from+1, to)
 	m.Nodes[at] = api.ScopeNode{Op: api.TermPar, Kids: []int{at + 1, k}}
 	return at

@@ -84,6 +84,9 @@ func TestRenumbered(t *testing.T) {
 		back := sample.Renumbered(q, inverse(nodes), inverse(defs))
 		for i := range q.Nodes {
 			clear(q.Nodes[i].Kids)
+			for _, e := range q.Nodes[i].Args {
+				clear(e.Kids)
+			}
 			clear(q.Nodes[i].Args)
 		}
 		for i := range q.Defs {

@@ -187,8 +187,8 @@ func newMaker(seed uint64) *maker { return &maker{rand.New(rand.NewPCG(seed, 6))
 
 func (m *maker) program() api.ScopeProg { return sample.Program(m.IntN, 5) }
 
-// solutions calls f with programs made by chance, and a solution of each run of theirs,
-// and all that are behind it in a run.
+// solutions calls f with programs made by chance, and the solutions of a run of each,
+// from the one at first on.
 func solutions(t *testing.T, seed uint64, programs int, f func(m *maker, p api.ScopeProg, s api.Sol)) {
 	t.Helper()
 	m := newMaker(seed)
@@ -289,5 +289,5 @@ func formed(t *testing.T, seed uint64, programs int, f func(m *maker, p api.Scop
 	}
 }
 
-// each calls f with the numbers of a list, and one of its elements in turn.
+// every is a list of one number, so many times.
 func every(n, length int) []int { return slices.Repeat([]int{n}, length) }

@@ -18,7 +18,8 @@ func within(spots []api.SolSpot, place int) []int {
 		}
 		if !asked[p] {
 			asked[p] = true // so that places in a ring are within no other one
-			is[p] = p == place || visit(spots[p].In)
+			in := p == place || visit(spots[p].In)
+			is[p] = in
 		}
 		return is[p]
 	}
