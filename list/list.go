@@ -19,3 +19,6 @@ func All[A any](l []A, f func(A) bool) bool {
 	}
 	return true
 }
+
+// Numbered reports whether a number is that of one of so many things, from 0 on.
+func Numbered(n, many int) bool { return 0 <= n && n < many }

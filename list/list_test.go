@@ -1,6 +1,7 @@
 package list_test
 
 import (
+	"math"
 	"slices"
 	"strings"
 	"testing"
@@ -32,6 +33,17 @@ func TestAll(t *testing.T) {
 	}{{nil, true}, {[]int{2}, true}, {[]int{2, 4}, true}, {[]int{1}, false}, {[]int{1, 2}, false}, {[]int{2, 1}, false}} {
 		if list.All(c.l, even) != c.want {
 			t.Error(c.l)
+		}
+	}
+}
+
+func TestNumbered(t *testing.T) {
+	for _, c := range []struct {
+		n, many int
+		want    bool
+	}{{0, 1, true}, {2, 3, true}, {3, 3, false}, {0, 0, false}, {-1, 3, false}, {math.MaxInt, 3, false}, {math.MinInt, 3, false}, {-1, -1, false}} {
+		if list.Numbered(c.n, c.many) != c.want {
+			t.Error(c)
 		}
 	}
 }

@@ -2,9 +2,7 @@ package scope_test
 
 import (
 	"fmt"
-	"math"
 	"math/rand/v2"
-	"reflect"
 	"slices"
 	"strings"
 	"testing"
@@ -231,60 +229,7 @@ func (m *maker) definition(depth, size int) (int, int) {
 	return at, size
 }
 
-// spoil changes one thing in a program: a number, a name, or how long a list is.
-func (m *maker) spoil(p *api.ScopeProg) {
-	var all []reflect.Value
-	var visit func(v reflect.Value)
-	visit = func(v reflect.Value) {
-		switch v.Kind() {
-		case reflect.Struct:
-			for i := range v.NumField() {
-				visit(v.Field(i))
-			}
-		case reflect.Slice:
-			all = append(all, v)
-			for i := range v.Len() {
-				visit(v.Index(i))
-			}
-		default:
-			all = append(all, v)
-		}
-	}
-	visit(reflect.ValueOf(p).Elem())
-	v := all[m.IntN(len(all))]
-	numbers := []int64{-1, 0, 1, 2, 3, 4, 5, 6, 8, 10, 14, api.TermMost + 1, math.MaxInt, math.MinInt}
-	switch v.Kind() {
-	case reflect.Int:
-		if m.IntN(2) == 0 {
-			v.SetInt(v.Int() + int64(m.IntN(3)) - 1)
-			return
-		}
-		v.SetInt(numbers[m.IntN(len(numbers))])
-	case reflect.String:
-		v.SetString([]string{"", "a", "d", "out", "zz", "go", "abcdefghi", "A"}[m.IntN(8)])
-	case reflect.Slice:
-		m.resize(v)
-	}
-}
-
-// resize swaps two elements of a list, or makes it longer or shorter.
-func (m *maker) resize(v reflect.Value) {
-	n := v.Len()
-	if n > 1 && m.IntN(2) == 0 {
-		reflect.Swapper(v.Interface())(m.IntN(n), m.IntN(n))
-		return
-	}
-	switch m.IntN(3) {
-	case 0:
-		v.SetZero()
-	case 1:
-		v.Set(reflect.Append(v, reflect.Zero(v.Type().Elem())))
-	case 2:
-		if n > 0 {
-			v.Set(v.Slice(0, n-1))
-		}
-	}
-}
+func (m *maker) spoil(p *api.ScopeProg) { sample.Spoil(m.IntN, p) }
 
 // formed calls f with formed programs made by chance: those that are made so, what
 // Bind makes of them, and all of these with something changed that leaves them

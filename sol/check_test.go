@@ -6,6 +6,7 @@ import (
 	"testing"
 
 	"cabotage/api"
+	"cabotage/show"
 	"cabotage/sol"
 )
 
@@ -31,8 +32,8 @@ func TestRich(t *testing.T) {
 		" | 0@0(" + env + ") 1@0(" + env + " 7 p4 c3 c4)" +
 		" | 0.0@0[(c0 p1)] 0.1@1[(f0)(p2)(c1)] 0.2@4[] 1.0@0[(7)] 1.1@0[]" +
 		" | 15@2(" + env + ") 16@2(" + env + ") 24@0(" + env + ") 5@0(" + env + " 7 p4)"
-	if show(s) != want {
-		t.Error(show(s))
+	if show.Sol(s) != want {
+		t.Error(show.Sol(s))
 	}
 }
 
@@ -58,7 +59,7 @@ func badVals() []change {
 			{}, {Kind: -1}, {Kind: 5}, {Kind: math.MaxInt}, {Kind: api.SolInt, N: 1000000001}, {Kind: api.SolInt, N: -1000000001}, {Kind: api.SolInt, N: math.MinInt},
 			{Kind: api.SolFree, N: -1}, {Kind: api.SolFree, N: 1}, {Kind: api.SolChan, N: -1}, {Kind: api.SolChan, N: 5}, {Kind: api.SolPlace, N: -1}, {Kind: api.SolPlace, N: 5}, {Kind: api.SolPlace, N: math.MaxInt},
 		} {
-			l = append(l, change{what + " " + showVal(v), func(s *api.Sol) { in(s)[0] = v }})
+			l = append(l, change{what + " " + show.Val(v), func(s *api.Sol) { in(s)[0] = v }})
 		}
 	}
 	return l
@@ -80,7 +81,7 @@ func badGroups() []change {
 		return change{"group: " + what, func(s *api.Sol) { do(&s.Groups[i]) }}
 	}
 	own := func(n int, v api.SolVal) change {
-		return group("own "+showVal(v), 0, func(g *api.SolGroup) { g.Env[n] = v })
+		return group("own "+show.Val(v), 0, func(g *api.SolGroup) { g.Env[n] = v })
 	}
 	return []change{
 		group("Def -1", 0, func(g *api.SolGroup) { g.Def = -1 }), group("Def 2", 1, func(g *api.SolGroup) { g.Def = 2 }), group("another Def", 1, func(g *api.SolGroup) { g.Def = 0 }), group("another Def", 0, func(g *api.SolGroup) { g.Def = 1 }),
@@ -141,7 +142,7 @@ func TestNotFormed(t *testing.T) {
 		p, s := richly(t)
 		c.do(&s)
 		if e := sol.Check(p, s); e != api.ErrArg || newPlain(p).isFormed(s) {
-			t.Error(c.what, e, show(s))
+			t.Error(c.what, e, show.Sol(s))
 		}
 	}
 }
@@ -182,7 +183,7 @@ func TestFormed(t *testing.T) {
 		p, s := richly(t)
 		c.do(&s)
 		if e := sol.Check(p, s); e != api.OK || !newPlain(p).isFormed(s) {
-			t.Error(c.what, e, show(s))
+			t.Error(c.what, e, show.Sol(s))
 		}
 	}
 }
@@ -228,10 +229,10 @@ func TestProgramNotFormed(t *testing.T) {
 
 func TestCheckByChance(t *testing.T) {
 	changed, is := 0, 0
-	solutions(t, 1, 700, func(m *maker, p api.ScopeProg, s api.Sol) {
+	solutions(1, 700, func(m *maker, p api.ScopeProg, s api.Sol) {
 		q := newPlain(p)
 		if e := sol.Check(p, s); e != api.OK || !q.isFormed(s) {
-			t.Fatal(source(p), show(s), e)
+			t.Fatal(source(p), show.Sol(s), e)
 		}
 		for range 4 {
 			u := copied(s)
@@ -240,7 +241,7 @@ func TestCheckByChance(t *testing.T) {
 			}
 			want := q.isFormed(u)
 			if e := sol.Check(p, u); (e == api.OK) != want || e != api.OK && e != api.ErrArg {
-				t.Fatal(source(p), show(u), e)
+				t.Fatal(source(p), show.Sol(u), e)
 			}
 			changed++
 			if want {

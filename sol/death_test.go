@@ -4,6 +4,7 @@ import (
 	"testing"
 
 	"cabotage/api"
+	"cabotage/show"
 	"cabotage/sol"
 )
 
@@ -18,7 +19,7 @@ func (d deaths) follow(t *testing.T, p api.ScopeProg, s api.Sol, l []api.SolEven
 	t.Helper()
 	for _, x := range l {
 		if d[x.At] || x.Deed == api.SolTold && !d[x.N] || x.Deed == api.SolWent && d[x.N] {
-			t.Fatal(source(p), show(s), showEvents(l), d)
+			t.Fatal(source(p), show.Sol(s), show.Events(l), d)
 		}
 		if x.Deed == api.SolDied {
 			within, _ := sol.Within(s, x.At)
@@ -49,7 +50,7 @@ func TestDeaths(t *testing.T) {
 			}
 			for i, spot := range s.Spots {
 				if spot.Dead != d[i] {
-					t.Fatal(source(p), show(s), d)
+					t.Fatal(source(p), show.Sol(s), d)
 				}
 			}
 			before := s
@@ -85,7 +86,7 @@ func TestDeathsOfWholes(t *testing.T) {
 			}
 			more.follow(t, p, s, l)
 			for _, y := range l {
-				all[showEvents([]api.SolEvent{y})] = true
+				all[show.Events([]api.SolEvent{y})] = true
 			}
 			visit(u, more, depth-1)
 		}

@@ -6,6 +6,7 @@ import (
 	"testing"
 
 	"cabotage/api"
+	"cabotage/show"
 	"cabotage/sol"
 )
 
@@ -51,8 +52,8 @@ func TestDo(t *testing.T) {
 		p := bind(t, c.source)
 		s := after(t, p, c.picks...)
 		u, l, e := sol.Do(p, s, c.step)
-		if c.sol == "" && (e != api.ErrNone || show(u) != show(api.Sol{}) || len(l) > 0) || c.sol != "" && (e != api.OK || show(u) != c.sol || showEvents(l) != c.events) {
-			t.Errorf("%s:\n%s\n%s %d", c.source, show(u), showEvents(l), e)
+		if c.sol == "" && (e != api.ErrNone || show.Sol(u) != show.Sol(api.Sol{}) || len(l) > 0) || c.sol != "" && (e != api.OK || show.Sol(u) != c.sol || show.Events(l) != c.events) {
+			t.Errorf("%s:\n%s\n%s %d", c.source, show.Sol(u), show.Events(l), e)
 		}
 	}
 }
@@ -67,13 +68,13 @@ func TestDoNoStep(t *testing.T) {
 		{Wait: -1, Group: -1, Picks: []int{0}}, {Wait: -1, Group: 2, Picks: []int{0}}, {Wait: -1, Group: math.MinInt, Picks: []int{0}}, {Wait: -1, Group: 1, Picks: []int{0}}, {Wait: -1, Group: 1, Picks: []int{0, 0}}, {Wait: -1, Group: 1, Rule: 1, Picks: []int{0}},
 		{Wait: -1, Picks: make([]int, 1<<20)},
 	} {
-		if u, l, e := sol.Do(p, s, x); e != api.ErrNone || show(u) != show(api.Sol{}) || len(l) > 0 {
-			t.Error(i, show(u), showEvents(l), e)
+		if u, l, e := sol.Do(p, s, x); e != api.ErrNone || show.Sol(u) != show.Sol(api.Sol{}) || len(l) > 0 {
+			t.Error(i, show.Sol(u), show.Events(l), e)
 		}
 	}
 	for _, x := range []api.SolStep{{Wait: 0}, {Wait: 1, Picks: []int{}}, {Wait: 3}, {Wait: -1, Picks: []int{0}}, {Wait: -1, Rule: 1, Picks: []int{2}}} {
 		if _, l, e := sol.Do(p, s, x); e != api.OK || len(l) == 0 {
-			t.Error(showStep(x), e)
+			t.Error(show.Step(x), e)
 		}
 	}
 }
@@ -101,16 +102,16 @@ func TestTooMuch(t *testing.T) {
 			t.Error(c.source, e)
 		}
 		x, _ := sol.Nth(p, s, 0)
-		if u, l, e := sol.Do(p, s, x); e != api.ErrLong || show(u) != show(api.Sol{}) || len(l) > 0 {
-			t.Error(c.source, show(u), showEvents(l), e)
+		if u, l, e := sol.Do(p, s, x); e != api.ErrLong || show.Sol(u) != show.Sol(api.Sol{}) || len(l) > 0 {
+			t.Error(c.source, show.Sol(u), show.Events(l), e)
 		}
 		// What would be there then is not formed.
 		if u, _ := newPlain(p).do(s, x); !isTooMuch(u) || sol.Check(p, u) != api.ErrArg {
-			t.Error(c.source, show(u))
+			t.Error(c.source, show.Sol(u))
 		}
 		x.Picks = append(x.Picks, 0)
-		if u, l, e := sol.Do(p, s, x); e != api.ErrNone || show(u) != show(api.Sol{}) || len(l) > 0 {
-			t.Error(c.source, show(u), showEvents(l), e)
+		if u, l, e := sol.Do(p, s, x); e != api.ErrNone || show.Sol(u) != show.Sol(api.Sol{}) || len(l) > 0 {
+			t.Error(c.source, show.Sol(u), show.Events(l), e)
 		}
 	}
 	// What no longer waits, and messages that were taken, make room first.
@@ -119,8 +120,8 @@ func TestTooMuch(t *testing.T) {
 	s.Waits, s.Chans[0].Queue = slices.Repeat(s.Waits, 40), slices.Repeat(s.Chans[0].Queue, 12)
 	for _, x := range []api.SolStep{{Wait: 5}, {Wait: -1, Picks: []int{3}}} {
 		want, _ := newPlain(p).do(s, x)
-		if u, _, e := sol.Do(p, s, x); e != api.OK || show(u) != show(want) {
-			t.Error(showStep(x), show(u), e)
+		if u, _, e := sol.Do(p, s, x); e != api.OK || show.Sol(u) != show.Sol(want) {
+			t.Error(show.Step(x), show.Sol(u), e)
 		}
 	}
 }
@@ -130,15 +131,15 @@ func TestDoErrors(t *testing.T) {
 		p, s := richly(t)
 		c.do(&s)
 		for _, x := range []api.SolStep{{}, {Wait: 3}, {Wait: -1, Picks: []int{0}}, {Wait: -9}} {
-			if u, l, e := sol.Do(p, s, x); e != api.ErrArg || show(u) != show(api.Sol{}) || len(l) > 0 {
-				t.Error(c.what, showStep(x), show(u), showEvents(l), e)
+			if u, l, e := sol.Do(p, s, x); e != api.ErrArg || show.Sol(u) != show.Sol(api.Sol{}) || len(l) > 0 {
+				t.Error(c.what, show.Step(x), show.Sol(u), show.Events(l), e)
 			}
 		}
 	}
 	p, s := richly(t)
 	p.Nodes = p.Nodes[1:]
-	if u, l, e := sol.Do(p, s, api.SolStep{}); e != api.ErrArg || show(u) != show(api.Sol{}) || len(l) > 0 {
-		t.Error(show(u), showEvents(l), e)
+	if u, l, e := sol.Do(p, s, api.SolStep{}); e != api.ErrArg || show.Sol(u) != show.Sol(api.Sol{}) || len(l) > 0 {
+		t.Error(show.Sol(u), show.Events(l), e)
 	}
 }
 
@@ -151,13 +152,13 @@ func TestDoByChance(t *testing.T) {
 			want, events := q.do(s, l[i])
 			u, got, e := sol.Do(p, s, l[i])
 			if isTooMuch(want) {
-				if e != api.ErrLong || show(u) != show(api.Sol{}) || len(got) > 0 {
-					t.Fatal(source(p), show(s), showStep(l[i]), show(u), e)
+				if e != api.ErrLong || show.Sol(u) != show.Sol(api.Sol{}) || len(got) > 0 {
+					t.Fatal(source(p), show.Sol(s), show.Step(l[i]), show.Sol(u), e)
 				}
 				continue
 			}
-			if e != api.OK || show(u) != show(want) || showEvents(got) != showEvents(events) {
-				t.Fatal(source(p), show(s), showStep(l[i]), show(u), show(want), showEvents(got), showEvents(events), e)
+			if e != api.OK || show.Sol(u) != show.Sol(want) || show.Events(got) != show.Events(events) {
+				t.Fatal(source(p), show.Sol(s), show.Step(l[i]), show.Sol(u), show.Sol(want), show.Events(got), show.Events(events), e)
 			}
 			deeds[got[0].Deed]++
 			holds(t, p, s, u)
@@ -174,16 +175,16 @@ func TestDoByChance(t *testing.T) {
 func holds(t *testing.T, p api.ScopeProg, s, u api.Sol) {
 	t.Helper()
 	if e := sol.Check(p, u); e != api.OK {
-		t.Fatal(source(p), show(u), e)
+		t.Fatal(source(p), show.Sol(u), e)
 	}
 	for i, spot := range s.Spots {
 		if spot.Dead && !u.Spots[i].Dead {
-			t.Fatal(source(p), show(s), show(u), "alive again:", i)
+			t.Fatal(source(p), show.Sol(s), show.Sol(u), "alive again:", i)
 		}
 	}
 	for _, q := range u.Chans {
 		if u.Spots[q.At].Dead && len(q.Queue) > 0 {
-			t.Fatal(source(p), show(u), "a message in a dead place")
+			t.Fatal(source(p), show.Sol(u), "a message in a dead place")
 		}
 	}
 }
@@ -199,9 +200,9 @@ func TestNoOtherStep(t *testing.T) {
 				x = copied(l[m.IntN(len(l))])
 				m.spoil(&x)
 			}
-			is := slices.ContainsFunc(l, func(y api.SolStep) bool { return showStep(x) == showStep(y) })
+			is := slices.ContainsFunc(l, func(y api.SolStep) bool { return show.Step(x) == show.Step(y) })
 			if _, _, e := sol.Do(p, s, x); (e == api.ErrNone) == is || e == api.ErrArg {
-				t.Fatal(source(p), show(s), showStep(x), e)
+				t.Fatal(source(p), show.Sol(s), show.Step(x), e)
 			}
 			if !is {
 				none++

@@ -4,6 +4,7 @@ import (
 	"testing"
 
 	"cabotage/api"
+	"cabotage/show"
 	"cabotage/sol"
 )
 
@@ -42,8 +43,8 @@ func TestFirst(t *testing.T) {
 	} {
 		p := bind(t, c.source)
 		s, l, e := sol.First(p)
-		if e != api.OK || show(s) != c.sol || showEvents(l) != c.events {
-			t.Errorf("%s:\n%s\n%s %d", c.source, show(s), showEvents(l), e)
+		if e != api.OK || show.Sol(s) != c.sol || show.Events(l) != c.events {
+			t.Errorf("%s:\n%s\n%s %d", c.source, show.Sol(s), show.Events(l), e)
 		}
 	}
 }
@@ -56,8 +57,8 @@ func TestFirstElsewhere(t *testing.T) {
 		Defs:  []api.ScopeDef{{Spots: []api.ScopeSpot{{Node: 0}}}, {Spots: []api.ScopeSpot{{Node: 4}}}},
 	}
 	s, l, e := sol.First(p)
-	if e != api.OK || show(s) != "-1 0 0 | 1@0(f0 f1 p1) 0@0(f0 f1 p1 p2) |  | 1@0(f0 f1 p1 p2)" || showEvents(l) != "said@2 1(p1)" {
-		t.Error(show(s), showEvents(l), e)
+	if e != api.OK || show.Sol(s) != "-1 0 0 | 1@0(f0 f1 p1) 0@0(f0 f1 p1 p2) |  | 1@0(f0 f1 p1 p2)" || show.Events(l) != "said@2 1(p1)" {
+		t.Error(show.Sol(s), show.Events(l), e)
 	}
 }
 
@@ -90,8 +91,8 @@ func TestFirstTooMuch(t *testing.T) {
 		want api.Errno
 	}{{wide(23, 30), api.OK}, {wide(24, 0), api.ErrLong}, {wide(30, 1), api.ErrLong}, {bind(t, "def x() = 0 in "+beside(12)), api.OK}, {bind(t, "def x() = 0 in "+beside(13)), api.ErrLong}} {
 		s, l, e := sol.First(c.p)
-		if e != c.want || e != api.OK && (show(s) != show(api.Sol{}) || len(l) > 0) {
-			t.Error(i, show(s), showEvents(l), e)
+		if e != c.want || e != api.OK && (show.Sol(s) != show.Sol(api.Sol{}) || len(l) > 0) {
+			t.Error(i, show.Sol(s), show.Events(l), e)
 		}
 	}
 	// With it nothing of what was said before is returned.
@@ -99,8 +100,8 @@ func TestFirstTooMuch(t *testing.T) {
 	p.Free = []string{"out"}
 	p.Nodes = append(p.Nodes, node(api.TermPar, 0, len(p.Nodes)+1, 0), node(api.TermSend, 0))
 	p.Main = len(p.Nodes) - 2
-	if s, l, e := sol.First(p); e != api.ErrLong || show(s) != show(api.Sol{}) || len(l) > 0 {
-		t.Error(show(s), showEvents(l), e)
+	if s, l, e := sol.First(p); e != api.ErrLong || show.Sol(s) != show.Sol(api.Sol{}) || len(l) > 0 {
+		t.Error(show.Sol(s), show.Events(l), e)
 	}
 }
 
@@ -112,13 +113,13 @@ func TestFirstByChance(t *testing.T) {
 		s, l, e := sol.First(p)
 		want, events := newPlain(p).first()
 		if isTooMuch(want) {
-			if e != api.ErrLong || show(s) != show(api.Sol{}) || len(l) > 0 {
-				t.Fatal(source(p), show(s), e)
+			if e != api.ErrLong || show.Sol(s) != show.Sol(api.Sol{}) || len(l) > 0 {
+				t.Fatal(source(p), show.Sol(s), e)
 			}
 			continue
 		}
-		if e != api.OK || show(s) != show(want) || showEvents(l) != showEvents(events) || sol.Check(p, s) != api.OK {
-			t.Fatal(source(p), show(s), show(want), showEvents(l), showEvents(events), e)
+		if e != api.OK || show.Sol(s) != show.Sol(want) || show.Events(l) != show.Events(events) || sol.Check(p, s) != api.OK {
+			t.Fatal(source(p), show.Sol(s), show.Sol(want), show.Events(l), show.Events(events), e)
 		}
 		said += len(l)
 	}

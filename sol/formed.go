@@ -5,12 +5,13 @@ import (
 
 	"cabotage/api"
 	"cabotage/list"
+	"cabotage/state"
 )
 
 // formed asks first what it needs in order to ask the rest.
 func (s solution) formed() bool {
 	return len(s.Spots) <= api.SolSpots && len(s.Groups) <= api.SolGroups && len(s.Chans) <= api.SolChans && len(s.Waits) <= api.SolWaits &&
-		rooted(s.Spots) && s.deathIsWhole() && s.owned() && list.All(s.Groups, s.groupFits) && s.chansFit() && list.All(s.Waits, s.waitFits)
+		state.Rooted(s.Spots) && s.deathIsWhole() && s.owned() && list.All(s.Groups, s.groupFits) && s.chansFit() && list.All(s.Waits, s.waitFits)
 }
 
 // deathIsWhole reports whether each place within a dead one is dead.
@@ -23,11 +24,11 @@ func (s solution) deathIsWhole() bool {
 func (s solution) owned() bool {
 	chans, spots := 0, 1
 	for _, g := range s.Groups {
-		if !numbered(g.Def, len(s.Defs)) || len(g.Env) != s.inner[g.Def] {
+		if !list.Numbered(g.Def, len(s.Defs)) || len(g.Env) != s.inner[g.Def] {
 			return false
 		}
 		d := s.Defs[g.Def]
-		own := owns(d, chans, spots)
+		own := state.Own(d, chans, spots)
 		if !slices.Equal(g.Env[len(g.Env)-len(own):], own) {
 			return false
 		}
@@ -37,18 +38,18 @@ func (s solution) owned() bool {
 }
 
 func (s solution) groupFits(g api.SolGroup) bool {
-	return numbered(g.At, len(s.Spots)) && list.All(g.Env, s.has)
+	return list.Numbered(g.At, len(s.Spots)) && list.All(g.Env, s.has)
 }
 
 // has reports whether a value is one of the solution.
 func (s solution) has(v api.SolVal) bool {
 	switch v.Kind {
 	case api.SolFree:
-		return numbered(v.N, len(s.Free))
+		return list.Numbered(v.N, len(s.Free))
 	case api.SolChan:
-		return numbered(v.N, len(s.Chans))
+		return list.Numbered(v.N, len(s.Chans))
 	case api.SolPlace:
-		return numbered(v.N, len(s.Spots))
+		return list.Numbered(v.N, len(s.Spots))
 	}
 	return isValue(v)
 }
@@ -60,7 +61,7 @@ func (s solution) chansFit() bool {
 	for g, group := range s.Groups {
 		for i, c := range s.Defs[group.Def].Chans {
 			q := s.Chans[n]
-			if q.Group != g || q.Index != i || q.At != s.place(g, c.At) || !s.queueFits(q, c.Many) {
+			if q.Group != g || q.Index != i || q.At != s.Place(g, c.At) || !s.queueFits(q, c.Many) {
 				return false
 			}
 			n++
@@ -78,7 +79,7 @@ func (s solution) queueFits(q api.SolQ, many int) bool {
 }
 
 func (s solution) waitFits(w api.SolWait) bool {
-	if !numbered(w.At, len(s.Spots)) || s.Spots[w.At].Dead || !numbered(w.Node, len(s.Nodes)) {
+	if !list.Numbered(w.At, len(s.Spots)) || s.Spots[w.At].Dead || !list.Numbered(w.Node, len(s.Nodes)) {
 		return false
 	}
 	switch s.Nodes[w.Node].Op {

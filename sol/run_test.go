@@ -6,6 +6,7 @@ import (
 	"testing"
 
 	"cabotage/api"
+	"cabotage/show"
 	"cabotage/sol"
 )
 
@@ -32,11 +33,11 @@ func TestRun(t *testing.T) {
 	} {
 		p := bind(t, c.source)
 		s, l, e := sol.Run(p, first(t, p), c.picks)
-		if e != api.OK || showEvents(l) != c.events {
-			t.Errorf("%s by %v: %s %d", c.source, c.picks, showEvents(l), e)
+		if e != api.OK || show.Events(l) != c.events {
+			t.Errorf("%s by %v: %s %d", c.source, c.picks, show.Events(l), e)
 		}
-		if len(c.picks) == 0 && show(s) != show(first(t, p)) {
-			t.Error(c.source, show(s))
+		if len(c.picks) == 0 && show.Sol(s) != show.Sol(first(t, p)) {
+			t.Error(c.source, show.Sol(s))
 		}
 	}
 }
@@ -44,28 +45,28 @@ func TestRun(t *testing.T) {
 func TestRunLong(t *testing.T) {
 	p := bind(t, "def x(a) = x(a + 1) in x(0)")
 	s, l, e := sol.Run(p, first(t, p), make([]int, 200))
-	if e != api.OK || len(l) != 200 || show(s) != "-1 | 0@0(c0) | 0.0@0[(200)] | " {
-		t.Error(show(s), len(l), e)
+	if e != api.OK || len(l) != 200 || show.Sol(s) != "-1 | 0@0(c0) | 0.0@0[(200)] | " {
+		t.Error(show.Sol(s), len(l), e)
 	}
 	for _, n := range []int{201, 1 << 20} {
-		if s, l, e := sol.Run(p, first(t, p), make([]int, n)); e != api.ErrLong || show(s) != show(api.Sol{}) || len(l) > 0 {
-			t.Error(n, show(s), len(l), e)
+		if s, l, e := sol.Run(p, first(t, p), make([]int, n)); e != api.ErrLong || show.Sol(s) != show.Sol(api.Sol{}) || len(l) > 0 {
+			t.Error(n, show.Sol(s), len(l), e)
 		}
 	}
 	// Also if it would end before.
 	p = bind(t, "0")
-	if s, l, e := sol.Run(p, first(t, p), make([]int, 201)); e != api.ErrLong || show(s) != show(api.Sol{}) || len(l) > 0 {
-		t.Error(show(s), len(l), e)
+	if s, l, e := sol.Run(p, first(t, p), make([]int, 201)); e != api.ErrLong || show.Sol(s) != show.Sol(api.Sol{}) || len(l) > 0 {
+		t.Error(show.Sol(s), len(l), e)
 	}
 	for _, c := range growing {
 		p := bind(t, c.source)
 		s := after(t, p, every(0, c.times)...)
 		for _, n := range []int{1, 2, 100} {
-			if u, l, e := sol.Run(p, s, make([]int, n)); e != api.ErrLong || show(u) != show(api.Sol{}) || len(l) > 0 {
-				t.Error(c.source, n, show(u), len(l), e)
+			if u, l, e := sol.Run(p, s, make([]int, n)); e != api.ErrLong || show.Sol(u) != show.Sol(api.Sol{}) || len(l) > 0 {
+				t.Error(c.source, n, show.Sol(u), len(l), e)
 			}
-			if u, l, e := sol.Run(p, first(t, p), make([]int, n+c.times)); e != api.ErrLong || show(u) != show(api.Sol{}) || len(l) > 0 {
-				t.Error(c.source, n, show(u), len(l), e)
+			if u, l, e := sol.Run(p, first(t, p), make([]int, n+c.times)); e != api.ErrLong || show.Sol(u) != show.Sol(api.Sol{}) || len(l) > 0 {
+				t.Error(c.source, n, show.Sol(u), len(l), e)
 			}
 		}
 	}
@@ -76,15 +77,15 @@ func TestRunErrors(t *testing.T) {
 		p, s := richly(t)
 		c.do(&s)
 		for _, n := range []int{0, 1, 201} {
-			if u, l, e := sol.Run(p, s, make([]int, n)); e != api.ErrArg || show(u) != show(api.Sol{}) || len(l) > 0 {
-				t.Error(c.what, n, show(u), showEvents(l), e)
+			if u, l, e := sol.Run(p, s, make([]int, n)); e != api.ErrArg || show.Sol(u) != show.Sol(api.Sol{}) || len(l) > 0 {
+				t.Error(c.what, n, show.Sol(u), show.Events(l), e)
 			}
 		}
 	}
 	p, s := richly(t)
 	p.Free = []string{"go"}
-	if u, l, e := sol.Run(p, s, make([]int, 201)); e != api.ErrArg || show(u) != show(api.Sol{}) || len(l) > 0 {
-		t.Error(show(u), showEvents(l), e)
+	if u, l, e := sol.Run(p, s, make([]int, 201)); e != api.ErrArg || show.Sol(u) != show.Sol(api.Sol{}) || len(l) > 0 {
+		t.Error(show.Sol(u), show.Events(l), e)
 	}
 }
 
@@ -118,22 +119,22 @@ func TestRunByChance(t *testing.T) {
 		}
 		want, events, tooMuch := byNumbers(newPlain(p), s, picks)
 		u, l, e := sol.Run(p, s, picks)
-		if (e == api.ErrLong) != tooMuch || !tooMuch && e != api.OK || show(u) != show(want) || showEvents(l) != showEvents(events) {
-			t.Fatal(source(p), show(s), picks, show(u), show(want), showEvents(l), showEvents(events), e)
+		if (e == api.ErrLong) != tooMuch || !tooMuch && e != api.OK || show.Sol(u) != show.Sol(want) || show.Events(l) != show.Events(events) {
+			t.Fatal(source(p), show.Sol(s), picks, show.Sol(u), show.Sol(want), show.Events(l), show.Events(events), e)
 		}
 		// A run by some numbers, and then by others, is the run by all of them.
 		k := m.IntN(len(picks) + 1)
 		v, l1, e1 := sol.Run(p, s, picks[:k])
 		if e1 != api.OK {
 			if e1 != e {
-				t.Fatal(source(p), show(s), picks, e, e1)
+				t.Fatal(source(p), show.Sol(s), picks, e, e1)
 			}
 			much++
 			return
 		}
 		v, l2, e2 := sol.Run(p, v, picks[k:])
-		if e2 != e || show(v) != show(u) || e == api.OK && showEvents(append(l1, l2...)) != showEvents(l) {
-			t.Fatal(source(p), show(s), picks, k, show(u), show(v), e, e2)
+		if e2 != e || show.Sol(v) != show.Sol(u) || e == api.OK && show.Events(append(l1, l2...)) != show.Events(l) {
+			t.Fatal(source(p), show.Sol(s), picks, k, show.Sol(u), show.Sol(v), e, e2)
 		}
 		if len(l) > 5 {
 			long++

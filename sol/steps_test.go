@@ -6,6 +6,7 @@ import (
 	"testing"
 
 	"cabotage/api"
+	"cabotage/show"
 	"cabotage/sol"
 )
 
@@ -53,7 +54,7 @@ func TestSteps(t *testing.T) {
 		{"def x() = stop and place p { in go q; stop } and place q { in stop } in x() | x()", []int{2}, "0; 1; 2; 0.0 [0]"},
 	} {
 		p := bind(t, c.source)
-		if got := showAll(steps(t, p, after(t, p, c.picks...)), "; ", showStep); got != c.want {
+		if got := show.All(steps(t, p, after(t, p, c.picks...)), "; ", show.Step); got != c.want {
 			t.Errorf("%s after %v: %s", c.source, c.picks, got)
 		}
 	}
@@ -76,8 +77,8 @@ func TestManySteps(t *testing.T) {
 		t.Error(n, e)
 	}
 	for n, want := range map[int]string{0: "0.0 [0 0 0]", 11: "0.0 [0 0 11]", 12: "0.0 [0 1 0]", 143: "0.0 [0 11 11]", 144: "0.0 [1 0 0]", 1727: "0.0 [11 11 11]", 1728: "0.1 [0 0]", 1728 + 13: "0.1 [1 1]", 1871: "0.1 [11 11]"} {
-		if x, e := sol.Nth(p, s, n); e != api.OK || showStep(x) != want {
-			t.Error(n, showStep(x), e)
+		if x, e := sol.Nth(p, s, n); e != api.OK || show.Step(x) != want {
+			t.Error(n, show.Step(x), e)
 		}
 	}
 	// As many steps as a solution can be made to have.
@@ -96,15 +97,15 @@ func TestManySteps(t *testing.T) {
 	if n, e := sol.Count(p, s); n != 20*30*1728 || e != api.OK {
 		t.Error(n, e)
 	}
-	if x, e := sol.Nth(p, s, 20*30*1728-2); e != api.OK || showStep(x) != "19.29 [11 11 10]" {
-		t.Error(showStep(x), e)
+	if x, e := sol.Nth(p, s, 20*30*1728-2); e != api.OK || show.Step(x) != "19.29 [11 11 10]" {
+		t.Error(show.Step(x), e)
 	}
 	picks := make([]int, api.SolTurns)
 	for i := range picks {
 		picks[i] = math.MaxInt - i
 	}
 	if u, l, e := sol.Run(p, s, picks); e != api.OK || len(l) != 200 {
-		t.Error(show(u), len(l), e)
+		t.Error(show.Sol(u), len(l), e)
 	}
 }
 
@@ -118,8 +119,8 @@ func TestNoStep(t *testing.T) {
 	}{
 		{p, s, -1}, {p, s, math.MinInt}, {p, s, len(steps(t, p, s))}, {p, s, math.MaxInt}, {crowd, all, -1}, {crowd, all, 1872}, {crowd, all, math.MaxInt}, {bind(t, "0"), first(t, bind(t, "0")), 0},
 	} {
-		if x, e := sol.Nth(c.p, c.s, c.n); e != api.ErrNone || showStep(x) != "0" {
-			t.Error(c.n, showStep(x), e)
+		if x, e := sol.Nth(c.p, c.s, c.n); e != api.ErrNone || show.Step(x) != "0" {
+			t.Error(c.n, show.Step(x), e)
 		}
 	}
 }
@@ -132,8 +133,8 @@ func TestStepsErrors(t *testing.T) {
 			t.Error(c.what, n, e)
 		}
 		for _, n := range []int{0, -1, 1000} {
-			if x, e := sol.Nth(p, s, n); showStep(x) != "0" || e != api.ErrArg {
-				t.Error(c.what, showStep(x), e)
+			if x, e := sol.Nth(p, s, n); show.Step(x) != "0" || e != api.ErrArg {
+				t.Error(c.what, show.Step(x), e)
 			}
 		}
 	}
@@ -142,8 +143,8 @@ func TestStepsErrors(t *testing.T) {
 	if n, e := sol.Count(p, s); n != 0 || e != api.ErrArg {
 		t.Error(n, e)
 	}
-	if x, e := sol.Nth(p, s, 0); showStep(x) != "0" || e != api.ErrArg {
-		t.Error(showStep(x), e)
+	if x, e := sol.Nth(p, s, 0); show.Step(x) != "0" || e != api.ErrArg {
+		t.Error(show.Step(x), e)
 	}
 }
 
@@ -151,15 +152,15 @@ func TestStepsByChance(t *testing.T) {
 	seen := map[string]int{}
 	formed(t, 4, 400, func(m *maker, p api.ScopeProg, s api.Sol) {
 		got, want := steps(t, p, s), newPlain(p).steps(s)
-		if showAll(got, " ", showStep) != showAll(want, " ", showStep) {
-			t.Fatal(source(p), show(s), showAll(got, " ", showStep), showAll(want, " ", showStep))
+		if show.All(got, " ", show.Step) != show.All(want, " ", show.Step) {
+			t.Fatal(source(p), show.Sol(s), show.All(got, " ", show.Step), show.All(want, " ", show.Step))
 		}
 		all := map[string]bool{}
 		for _, x := range got {
-			if all[showStep(x)] {
-				t.Fatal(source(p), show(s), showStep(x), "is twice")
+			if all[show.Step(x)] {
+				t.Fatal(source(p), show.Sol(s), show.Step(x), "is twice")
 			}
-			all[showStep(x)] = true
+			all[show.Step(x)] = true
 			switch {
 			case x.Wait < 0:
 				seen[fmt.Sprint(len(x.Picks))]++

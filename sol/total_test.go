@@ -7,6 +7,8 @@ import (
 	"testing"
 
 	"cabotage/api"
+	"cabotage/sample"
+	"cabotage/show"
 	"cabotage/sol"
 )
 
@@ -16,7 +18,7 @@ import (
 // nothing else with an error.
 func all(t *testing.T, p api.ScopeProg, s api.Sol, x api.SolStep, picks []int) string {
 	t.Helper()
-	zero := show(api.Sol{})
+	zero := show.Sol(api.Sol{})
 	e0 := sol.Check(p, s)
 	s1, l1, e1 := sol.First(p)
 	n2, e2 := sol.Count(p, s)
@@ -24,19 +26,19 @@ func all(t *testing.T, p api.ScopeProg, s api.Sol, x api.SolStep, picks []int) s
 	s4, l4, e4 := sol.Do(p, s, x)
 	s5, l5, e5 := sol.Run(p, s, picks)
 	l6, e6 := sol.Within(s, len(picks))
-	if e1 != api.OK && (show(s1) != zero || l1 != nil) || e2 != api.OK && n2 != 0 || e3 != api.OK && !reflect.DeepEqual(x3, api.SolStep{}) || e4 != api.OK && (show(s4) != zero || l4 != nil) || e5 != api.OK && (show(s5) != zero || l5 != nil) || e6 != api.OK && l6 != nil {
-		t.Fatal(source(p), show(s), e1, e2, e3, e4, e5, e6)
+	if e1 != api.OK && (show.Sol(s1) != zero || l1 != nil) || e2 != api.OK && n2 != 0 || e3 != api.OK && !reflect.DeepEqual(x3, api.SolStep{}) || e4 != api.OK && (show.Sol(s4) != zero || l4 != nil) || e5 != api.OK && (show.Sol(s5) != zero || l5 != nil) || e6 != api.OK && l6 != nil {
+		t.Fatal(source(p), show.Sol(s), e1, e2, e3, e4, e5, e6)
 	}
 	if e0 != api.OK && (e0 != api.ErrArg || e2 != e0 || e3 != e0 || e4 != e0 || e5 != e0) || e0 == api.OK && (e2 != api.OK || e3 == api.ErrArg || e4 == api.ErrArg || e5 == api.ErrArg || e5 == api.ErrNone) {
-		t.Fatal(source(p), show(s), e0, e2, e3, e4, e5)
+		t.Fatal(source(p), show.Sol(s), e0, e2, e3, e4, e5)
 	}
-	return fmt.Sprint(e0, show(s1), showEvents(l1), e1, n2, e2, showStep(x3), e3, show(s4), showEvents(l4), e4, show(s5), showEvents(l5), e5, l6, e6)
+	return fmt.Sprint(e0, show.Sol(s1), show.Events(l1), e1, n2, e2, show.Step(x3), e3, show.Sol(s4), show.Events(l4), e4, show.Sol(s5), show.Events(l5), e5, l6, e6)
 }
 
 // TestSpoilt: programs, solutions and steps with some things changed by chance have
 // results, or an error and nothing else, and the same ones twice.
 func TestSpoilt(t *testing.T) {
-	solutions(t, 10, 250, func(m *maker, p api.ScopeProg, s api.Sol) {
+	solutions(10, 250, func(m *maker, p api.ScopeProg, s api.Sol) {
 		for range 3 {
 			q, u, x := copied(p), copied(s), api.SolStep{Wait: -m.IntN(2)}
 			if l := steps(t, p, s); len(l) > 0 {
@@ -49,7 +51,7 @@ func TestSpoilt(t *testing.T) {
 			}
 			picks := []int{m.IntN(9) - 1, m.IntN(9), m.IntN(9)}[:m.IntN(4)]
 			if a, b := all(t, q, u, x, picks), all(t, q, u, x, picks); a != b {
-				t.Fatal(source(q), show(u), a, b)
+				t.Fatal(source(q), show.Sol(u), a, b)
 			}
 		}
 	})
@@ -88,24 +90,17 @@ func TestAny(t *testing.T) {
 	}
 }
 
-// apart asks that all lists in some values have memory of their own, with what lies
-// behind their ends.
-func apart(t *testing.T, values ...any) {
-	t.Helper()
-	type stretch struct{ from, to uintptr }
-	var l []stretch
-	for _, a := range values {
-		within(reflect.ValueOf(a), func(v reflect.Value) {
-			if v.Kind() == reflect.Slice && v.Cap() > 0 {
-				l = append(l, stretch{v.Pointer(), v.Pointer() + uintptr(v.Cap())*v.Type().Elem().Size()})
-			}
-		})
-	}
-	for i, a := range l {
-		for _, b := range l[:i] {
-			if a.from < b.to && b.from < a.to {
-				t.Fatal("memory is shared")
-			}
+// within calls f with a value, and with all values within it.
+func within(v reflect.Value, f func(reflect.Value)) {
+	f(v)
+	switch v.Kind() {
+	case reflect.Struct:
+		for i := range v.NumField() {
+			within(v.Field(i), f)
+		}
+	case reflect.Slice:
+		for i := range v.Len() {
+			within(v.Index(i), f)
 		}
 	}
 }
@@ -127,7 +122,7 @@ func roomy(a any) func() string {
 }
 
 func TestMemory(t *testing.T) {
-	solutions(t, 11, 150, func(m *maker, p api.ScopeProg, s api.Sol) {
+	solutions(11, 150, func(m *maker, p api.ScopeProg, s api.Sol) {
 		p, s = copied(p), copied(s)
 		x, picks := api.SolStep{}, []int{m.IntN(20), m.IntN(20), m.IntN(20)}
 		if l := steps(t, p, s); len(l) > 0 {
@@ -144,7 +139,9 @@ func TestMemory(t *testing.T) {
 		s4, l4, _ := sol.Run(p, s, picks)
 		s5, l5, _ := sol.Run(p, s, nil)
 		l6, _ := sol.Within(s, 0)
-		apart(t, p, s, x, picks, s1, l1, x2, s3, l3, s4, l4, s5, l5, l6)
+		if !sample.Apart(&p, &s, &x, &picks, &s1, &l1, &x2, &s3, &l3, &s4, &l4, &s5, &l5, &l6) {
+			t.Fatal(source(p), "memory is shared")
+		}
 		for i, text := range args {
 			if text() != before[i] {
 				t.Fatal(before[i], text())

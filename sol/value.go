@@ -1,9 +1,9 @@
 package sol
 
-import "cabotage/api"
-
-// numbered reports whether a number is that of one of so many things.
-func numbered(n, many int) bool { return 0 <= n && n < many }
+import (
+	"cabotage/api"
+	"cabotage/list"
+)
 
 // ranged reports whether a number is one that integers can have.
 func ranged(n int) bool { return -api.TermMost <= n && n <= api.TermMost }
@@ -31,7 +31,7 @@ func isFormed(e api.ScopeExp, size int) bool {
 		case api.TermInt:
 			return len(e.Kids) == 0 && ranged(e.N)
 		case api.TermName:
-			return len(e.Kids) == 0 && numbered(e.N, size)
+			return len(e.Kids) == 0 && list.Numbered(e.N, size)
 		case api.TermAdd, api.TermSub, api.TermMul, api.TermLess, api.TermSame:
 			return len(e.Kids) == 2 && e.N == 0 && visit(e.Kids[0], depth+1) && visit(e.Kids[1], depth+1)
 		}

@@ -7,6 +7,7 @@ import (
 	"testing"
 
 	"cabotage/api"
+	"cabotage/show"
 	"cabotage/sol"
 )
 
@@ -36,8 +37,8 @@ func TestValue(t *testing.T) {
 		{exp(api.TermLess, name(1), num(1)), "1"}, {exp(api.TermLess, num(-1), name(3)), "1"}, {exp(api.TermLess, name(1), name(2)), "0"}, {exp(api.TermSame, name(1), name(2)), "1"}, {exp(api.TermSame, name(2), num(0)), "1"}, {exp(api.TermSame, name(2), num(3)), "0"}, {exp(api.TermSame, name(3), name(6)), "1"},
 		{exp(api.TermMul, exp(api.TermAdd, name(0), num(1)), exp(api.TermLess, name(7), name(6))), "8"},
 	} {
-		if v, e := sol.Value(c.e, vals()); e != api.OK || showVal(v) != c.want {
-			t.Error(i, showVal(v), e)
+		if v, e := sol.Value(c.e, vals()); e != api.OK || show.Val(v) != c.want {
+			t.Error(i, show.Val(v), e)
 		}
 	}
 	if v, e := sol.Value(num(1), nil); e != api.OK || v != integers(1)[0] {
@@ -125,7 +126,7 @@ func TestValueByChance(t *testing.T) {
 		e := m.expression(5, len(env))
 		v, err := sol.Value(e, env)
 		if want := plainValue(e, env); err != api.OK || v != want {
-			t.Fatal(fmt.Sprint(e), showVals(env), v, want, err)
+			t.Fatal(fmt.Sprint(e), show.Vals(env), v, want, err)
 		}
 	}
 }

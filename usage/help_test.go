@@ -1,16 +1,13 @@
 package usage_test
 
 import (
-	"fmt"
 	"math/rand/v2"
 	"slices"
 	"strings"
 	"testing"
 
 	"cabotage/api"
-	"cabotage/read"
 	"cabotage/sample"
-	"cabotage/scope"
 	"cabotage/usage"
 )
 
@@ -22,26 +19,14 @@ const exampleTable = "*!! *1 (*)(1)(*); ! 1 ()"
 
 func bind(t *testing.T, source string) api.ScopeProg {
 	t.Helper()
-	u, e := read.Parse(source)
-	if e != api.OK {
-		t.Fatalf("%s: error %d", source, e)
-	}
-	p, e := scope.Bind(u)
+	p, e := sample.Bound(source)
 	if e != api.OK {
 		t.Fatalf("%s: error %d", source, e)
 	}
 	return p
 }
 
-// source is a process for a program.
-func source(p api.ScopeProg) string {
-	u, e := scope.Term(p)
-	if e != api.OK {
-		return fmt.Sprint(p)
-	}
-	s, _ := read.Print(u)
-	return s
-}
+func source(p api.ScopeProg) string { return sample.Source(p) }
 
 // show writes a table: of each definition the kinds of its channels, those of its
 // rules, and in brackets those of each channel's values. Never is 0, once !, at most

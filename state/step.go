@@ -1,4 +1,4 @@
-package sol
+package state
 
 import (
 	"iter"
@@ -10,7 +10,7 @@ import (
 
 // ways goes through the steps, in order, those of one rule at once: without their
 // Picks, with the numbers of messages from which these are taken.
-func (s solution) ways() iter.Seq2[api.SolStep, []int] {
+func (s Solution) ways() iter.Seq2[api.SolStep, []int] {
 	return func(yield func(api.SolStep, []int) bool) {
 		for i, w := range s.Waits {
 			if s.goesOn(w) && !yield(api.SolStep{Wait: i}, nil) {
@@ -18,7 +18,7 @@ func (s solution) ways() iter.Seq2[api.SolStep, []int] {
 			}
 		}
 		for g := range s.Groups {
-			for r, rule := range s.definition(g).Rules {
+			for r, rule := range s.Definition(g).Rules {
 				if !yield(api.SolStep{Wait: -1, Group: g, Rule: r}, s.messages(g, rule)) {
 					return
 				}
@@ -28,7 +28,7 @@ func (s solution) ways() iter.Seq2[api.SolStep, []int] {
 }
 
 // goesOn reports whether a process that waits can go on.
-func (s solution) goesOn(w api.SolWait) bool {
+func (s Solution) goesOn(w api.SolWait) bool {
 	n := s.Nodes[w.Node]
 	if n.Op == api.TermStop {
 		return true
@@ -41,13 +41,13 @@ func (s solution) goesOn(w api.SolWait) bool {
 		return s.Spots[v.N].Dead
 	}
 	// The place 0 stays where it is, as all are within it.
-	return !s.Spots[v.N].Dead && !slices.Contains(within(s.Spots, w.At), v.N)
+	return !s.Spots[v.N].Dead && !slices.Contains(Within(s.Spots, w.At), v.N)
 }
 
 // messages returns how many there are of each channel of a rule: none if its place is
 // dead, as its channels are there.
-func (s solution) messages(g int, r api.ScopeRule) []int {
-	return list.Each(r.Joins, func(c int) int { return len(s.Chans[s.channel(g, c)].Queue) })
+func (s Solution) messages(g int, r api.ScopeRule) []int {
+	return list.Each(r.Joins, func(c int) int { return len(s.Chans[s.Channel(g, c)].Queue) })
 }
 
 // choices returns in how many ways one can be taken of each of some things.
@@ -59,7 +59,8 @@ func choices(many []int) int {
 	return n
 }
 
-func (s solution) count() int {
+// Count returns how many steps there are.
+func (s Solution) Count() int {
 	n := 0
 	for _, many := range s.ways() {
 		n += choices(many)
@@ -67,16 +68,19 @@ func (s solution) count() int {
 	return n
 }
 
-// nth returns the step with a number, which is less than the count.
-func (s solution) nth(n int) api.SolStep {
+// Nth returns the step with a number, or ErrNone if there is none.
+func (s Solution) Nth(n int) (api.SolStep, api.Errno) {
+	if n < 0 {
+		return api.SolStep{}, api.ErrNone
+	}
 	for x, many := range s.ways() {
 		if n < choices(many) {
 			x.Picks = digits(n, many)
-			return x
+			return x, api.OK
 		}
 		n -= choices(many)
 	}
-	return api.SolStep{}
+	return api.SolStep{}, api.ErrNone
 }
 
 // digits returns the digits of a number, of which each is one of so many.
@@ -89,11 +93,11 @@ func digits(n int, many []int) []int {
 	return l
 }
 
-// can reports whether a step is one of the solution's.
-func (s solution) can(x api.SolStep) bool {
+// Can reports whether a step is one of the solution's.
+func (s Solution) Can(x api.SolStep) bool {
 	for y, many := range s.ways() {
 		if y.Wait == x.Wait && y.Group == x.Group && y.Rule == x.Rule {
-			return slices.EqualFunc(x.Picks, many, numbered)
+			return slices.EqualFunc(x.Picks, many, list.Numbered)
 		}
 	}
 	return false
