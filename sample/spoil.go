@@ -8,8 +8,9 @@ import (
 )
 
 // Spoil changes one thing in what a points to, which is a program, a flat program, a
-// solution or a step: a number, a name, whether something is dead, or how long a list
-// is. All lists then have memory of their own.
+// solution or a step, a group, a machine, a word or a tree of layer 8, or a list of
+// numbers: a number, a name, whether something is dead, or how long a list is. All lists
+// then have memory of their own.
 func Spoil(below Below, a any) {
 	spoil := spoiler{below: below}
 	own(a)
@@ -25,8 +26,8 @@ func own(a any) {
 }
 
 // Apart reports whether all lists in what some pointers point to have memory of their
-// own, with what lies behind their ends: those that Spoil takes, and lists of numbers,
-// of such lists, and of events.
+// own, with what lies behind their ends: those that Spoil takes, and lists of lists of
+// numbers, and of events.
 func Apart(all ...any) bool {
 	s := spoiler{seen: map[any]bool{}}
 	for _, a := range all {
@@ -55,6 +56,18 @@ func (s *spoiler) visit(a any) {
 		s.solution(a)
 	case *api.SolStep:
 		s.step(a)
+	case *api.AutoGroup:
+		number(s, &a.Chans)
+		numbers(s, &a.Rules)
+	case *api.AutoMachine:
+		s.automaton(a)
+	case *[]api.AutoLetter:
+		items(s, a, func(l *api.AutoLetter) {
+			number(s, &l.Chan)
+			number(s, &l.Keep)
+		})
+	case *[]api.AutoNode:
+		items(s, a, s.test)
 	case *[]int:
 		numbers(s, a)
 	case *[][]int:
@@ -207,4 +220,20 @@ func (s *spoiler) step(x *api.SolStep) {
 	number(s, &x.Group)
 	number(s, &x.Rule)
 	numbers(s, &x.Picks)
+}
+
+func (s *spoiler) automaton(m *api.AutoMachine) {
+	items(s, &m.States, func(acts *[]api.AutoAct) {
+		items(s, acts, func(a *api.AutoAct) {
+			number(s, &a.Rule)
+			numbers(s, &a.Next)
+		})
+	})
+}
+
+func (s *spoiler) test(n *api.AutoNode) {
+	number(s, &n.Chan)
+	number(s, &n.Yes)
+	number(s, &n.No)
+	number(s, &n.Rule)
 }

@@ -58,7 +58,11 @@ func text(a any) string {
 
 func TestSpoil(t *testing.T) {
 	m := chance(4)
-	for _, kind := range []any{api.ScopeProg{}, api.FlatProg{}, api.Sol{}, api.SolStep{}} {
+	for _, c := range []struct {
+		kind   any
+		fields int // at least
+	}{{api.ScopeProg{}, 12}, {api.FlatProg{}, 12}, {api.Sol{}, 12}, {api.SolStep{}, 4}, {api.AutoGroup{}, 2}, {api.AutoMachine{}, 2}, {[]api.AutoLetter{}, 2}, {[]api.AutoNode{}, 4}, {[]int{}, 1}} {
+		kind := c.kind
 		found, asked := map[string]int{}, map[string]int{}
 		for range 2000 {
 			a, b := reflect.New(reflect.TypeOf(kind)), reflect.New(reflect.TypeOf(kind))
@@ -77,7 +81,7 @@ func TestSpoil(t *testing.T) {
 				t.Errorf("%T: nothing changes%s", kind, name)
 			}
 		}
-		if _, is := kind.(api.SolStep); !is && len(found) < 12 {
+		if len(found) < c.fields {
 			t.Errorf("%T: %v", kind, found)
 		}
 	}
@@ -103,7 +107,7 @@ func TestSpoilLists(t *testing.T) {
 }
 
 func TestApart(t *testing.T) {
-	for _, kind := range []any{api.ScopeProg{}, api.FlatProg{}, api.Sol{}, api.SolStep{}, []int{}, [][]int{}, []api.SolEvent{}} {
+	for _, kind := range []any{api.ScopeProg{}, api.FlatProg{}, api.Sol{}, api.SolStep{}, api.AutoGroup{}, api.AutoMachine{}, []api.AutoLetter{}, []api.AutoNode{}, []int{}, [][]int{}, []api.SolEvent{}} {
 		a, b := reflect.New(reflect.TypeOf(kind)), reflect.New(reflect.TypeOf(kind))
 		plain(a.Elem(), 4)
 		plain(b.Elem(), 4)
